@@ -67,7 +67,7 @@ func (w want) body() string {
 	case 6:
 		body = f + pack.Words(w.to, w.values[0])
 	case 15:
-		body = f + set + size(1) + pack.Bits(w.values)
+		body = f + set + size(pack.BitsSize(len(w.values))) + pack.Bits(w.values)
 	case 16:
 		body = f + set + size(2*len(w.values)) + pack.Words(w.values...)
 	case 22:
@@ -165,11 +165,17 @@ func (m *model) told(w want, table int) string {
 	return string([]byte{byte(w.function), byte(len(data))}) + data
 }
 
+// heeds tells whether a request is done, and whether it is answered.
+func (m *model) heeds(line int, w want) (done, answered bool) {
+	toAll := m.c.Lines[line] == api.Serial && w.unit == 0
+	answered = w.unit == m.c.Unit
+	return answered || toAll && slices.Contains([]int{5, 6, 15, 16, 22}, w.function), answered
+}
+
 // take tells what is to be seen when a request has been taken.
 func (m *model) take(line int, w want) []string {
-	serial := m.c.Lines[line] == api.Serial
-	toAll := serial && w.unit == 0 && slices.Contains([]int{5, 6, 15, 16, 22}, w.function)
-	if w.unit != m.c.Unit && !toAll {
+	done, answered := m.heeds(line, w)
+	if !done {
 		return nil
 	}
 	body, kept := m.do(w)
@@ -177,9 +183,9 @@ func (m *model) take(line int, w want) []string {
 		m.unsaved++
 	}
 	var seen []string
-	if !toAll {
+	if answered {
 		data := onStream(w.mark, w.unit, body)
-		if serial {
+		if m.c.Lines[line] == api.Serial {
 			data = onSerial(w.unit, body)
 		}
 		seen = append(seen, sent(line, data))
